@@ -96,10 +96,11 @@ func plainProbe(s State, count int) int {
 	}
 	wait := whole(16)
 	if s.Has && plainCheck(s) {
-		wait = sum(whole(s.Smooth), times(4, s.Var))
-		if wait.Cmp(whole(1)) < 0 {
-			wait = whole(1)
+		spread := times(4, s.Var)
+		if spread.Cmp(whole(1)) < 0 {
+			spread = whole(1)
 		}
+		wait = sum(whole(s.Smooth), spread)
 	}
 	for range count {
 		wait = sum(wait, wait)
@@ -261,9 +262,11 @@ func TestProbe(t *testing.T) {
 		{State{}, 0, 16}, {State{}, 1, 32}, {State{}, 11, 32768}, {State{}, 12, 65536}, {State{}, 13, 65536}, {State{}, 16, 65536}, {State{}, 17, 65536},
 		{State{}, -1, 16}, {State{}, math.MinInt, 16}, {State{}, math.MaxInt, 65536},
 		{known(0, 0, 0, 0), 0, 1}, {known(0, 0, 0, 0), 1, 2}, {known(0, 0, 0, 0), 15, 32768}, {known(0, 0, 0, 0), 16, 65536}, {known(0, 0, 0, 0), 17, 65536}, {known(0, 0, 0, 0), 99, 65536},
-		{known(1, 0, 0, 0), 0, 1}, {known(0, 0, 1, 0), 0, 1}, {known(0, 0, 0, 1), 0, 4}, {known(0, 0, 1, 1), 0, 5},
+		{known(1, 0, 0, 0), 0, 1}, {known(0, 0, 1, 0), 0, 2}, {known(0, 0, 0, 1), 0, 4}, {known(0, 0, 1, 1), 0, 5},
+		{known(47, 47, 47, 0), 0, 48}, {known(47, 47, 47, 0), -1, 48}, {known(47, 47, 47, 0), 2, 192}, {known(47, 47, 47, 0), 10, 49152}, {known(47, 47, 47, 0), 11, 65536}, {known(47, 47, 47, 1), 2, 204},
 		{known(10, 10, 10, 5), -1, 30}, {known(10, 10, 10, 5), 0, 30}, {known(10, 10, 10, 5), 1, 60}, {known(10, 10, 10, 5), 2, 120}, {known(10, 10, 10, 5), 11, 61440}, {known(10, 10, 10, 5), 12, 65536},
-		{known(0, 0, 65535, 0), 0, 65535}, {known(0, 0, 65536, 0), 0, 65536}, {known(0, 0, 65537, 0), 0, 65536}, {known(0, 0, 0, 16384), 0, 65536}, {known(0, 0, 3, 16383), 0, 65535},
+		{known(0, 0, 65534, 0), 0, 65535}, {known(0, 0, 65535, 0), 0, 65536}, {known(0, 0, 65536, 0), 0, 65536}, {known(0, 0, 65537, 0), 0, 65536}, {known(0, 0, 0, 16384), 0, 65536}, {known(0, 0, 3, 16383), 0, 65535},
+		{known(1<<40, 1<<40, 1<<40, 0), 0, 65536}, {known(1<<40, 0, 0, 0), 0, 1},
 		{known(1<<40, 1<<40, 1<<40, 1<<40), 0, 65536}, {known(1<<40, 1<<40, 1<<40, 1<<40), 16, 65536}, {known(1<<40, 1<<40, 1<<40, 1<<40), math.MaxInt, 65536},
 	} {
 		if got := Probe(c.s, c.count); got != c.want {
@@ -274,6 +277,27 @@ func TestProbe(t *testing.T) {
 		if Probe(s, 0) != 16 || Probe(s, 3) != 128 || Probe(s, 16) != 65536 {
 			t.Errorf("Probe of %+v = %d, %d, %d", s, Probe(s, 0), Probe(s, 3), Probe(s, 16))
 		}
+	}
+}
+
+// P20.2: it is 4 Var that counts as at least 1, not the sum with Smooth: so it is always waited longer than Smooth.
+func TestProbeAboveSmooth(t *testing.T) {
+	for smooth := range 300 {
+		for vary := range 5 {
+			spread := []int{1, 4, 8, 12, 16}[vary]
+			s := known(smooth, 0, smooth, vary)
+			if got := Probe(s, 0); got != smooth+spread {
+				t.Errorf("Probe(%+v, 0) = %d, want %d", s, got, smooth+spread)
+			}
+		}
+	}
+	// A way that does not vary comes to such a state by samples alone.
+	s := State{}
+	for range 60 {
+		s = Sample(s, 47, 0)
+	}
+	if s != known(47, 47, 47, 0) || Probe(s, 0) != 48 {
+		t.Errorf("behind samples of 47: %+v, Probe = %d", s, Probe(s, 0))
 	}
 }
 
